@@ -316,6 +316,22 @@ func TestAddAndRemove(t *testing.T) {
 	wantUp(t, h, "")
 }
 
+// Has tells of hosts that there are, whether they are up or down, and of no others.
+func TestHas(t *testing.T) {
+	h := mustNew(t, []string{"b", "a"}, 1, 1)
+	look(t, h, "b", false)
+	mustAdd(t, h, "c")
+	mustRemove(t, h, "a")
+	for host, want := range map[string]bool{"a": false, "b": true, "c": true, "d": false, "": false, "B": false} {
+		if h.Has(host) != want {
+			t.Errorf("%q: %v", host, !want)
+		}
+	}
+	if none, _ := New(nil, 0, 0); none.Has("a") {
+		t.Error("what New gives beside an error has a host")
+	}
+}
+
 // P71: one that comes again begins anew, whatever was counted of it; the others go on.
 func TestComeAgain(t *testing.T) {
 	h := mustNew(t, []string{"a", "b"}, 3, 3)
